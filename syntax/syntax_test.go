@@ -1,0 +1,83 @@
+package syntax
+
+import (
+	"slices"
+	"strconv"
+	"strings"
+	"testing"
+
+	"rebuttal/api"
+)
+
+// Z11: keys.
+func TestKey(t *testing.T) {
+	for _, s := range []string{"a", "z", "a0", "a-b_c9", "a-", "a_", strings.Repeat("k", api.MaxName)} {
+		if !Key(s) {
+			t.Errorf("%q is a key", s)
+		}
+	}
+	for _, s := range []string{"", "A", "aB", "0a", "-a", "_a", "a b", "a.", "ä", "aä", "a\n", "a\x00", "`", "{", "a/", "a:", strings.Repeat("k", api.MaxName+1)} {
+		if Key(s) {
+			t.Errorf("%q is no key", s)
+		}
+	}
+}
+
+// Z11: plain strings.
+func TestPlain(t *testing.T) {
+	for _, s := range []string{"", "a", "a b", "a b c", "Ä b", "\u20ac", "\U0010ffff", "\u0080", "~", "!", "\u00a0 x"} {
+		if !Plain(s) {
+			t.Errorf("%q is plain", s)
+		}
+	}
+	for _, s := range []string{" ", " a", "a ", "a  b", "a\tb", "a\n", "\x00", "a\x1fb", "a\x7f", "\x80", "a\xff", "\xc0\x80", "\xed\xa0\x80", "\xf4\x90\x80\x80", "\xe2\x82"} {
+		if Plain(s) {
+			t.Errorf("%q is not plain", s)
+		}
+	}
+}
+
+// Z10: numbers.
+func TestNumber(t *testing.T) {
+	for _, n := range []int{0, 1, 9, 10, 123456789, 999999999, -1, -10, -999999999} {
+		if got, ok := Number(strconv.Itoa(n), 9); got != n || !ok {
+			t.Errorf("%d is read as %d, %t", n, got, ok)
+		}
+	}
+	for _, s := range []string{"", "-", "-0", "00", "01", "-01", "+1", "--1", "1-", "1 ", " 1", "1a", "a", "/", ":", "0x1", "1_0", "1.0", "1234567890", "-1234567890", "0000000000", "\u0661"} {
+		if n, ok := Number(s, 9); n != 0 || ok {
+			t.Errorf("%q is read as %d, %t", s, n, ok)
+		}
+	}
+	if n, ok := Number("10", 1); n != 0 || ok {
+		t.Errorf("two digits are read as one: %d, %t", n, ok)
+	}
+	if n, ok := Number("-999999999999999999", 100); n != -999999999999999999 || !ok {
+		t.Errorf("18 digits are read as %d, %t", n, ok)
+	}
+	if n, ok := Number("1000000000000000000", 100); n != 0 || ok {
+		t.Errorf("19 digits are read as %d, %t", n, ok)
+	}
+}
+
+// Z9: lines.
+func TestLines(t *testing.T) {
+	for _, c := range []struct {
+		text  string
+		lines []string
+		ended bool
+	}{
+		{"", nil, true},
+		{"\n", []string{""}, true},
+		{"a", []string{"a"}, false},
+		{"a\n", []string{"a"}, true},
+		{"a\n\n", []string{"a", ""}, true},
+		{"a\nb", []string{"a", "b"}, false},
+		{"\n\nb\r\n", []string{"", "", "b\r"}, true},
+	} {
+		l, ended := Lines(c.text)
+		if !slices.Equal(l, c.lines) || ended != c.ended {
+			t.Errorf("lines of %q are %q, %t", c.text, l, ended)
+		}
+	}
+}
