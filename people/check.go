@@ -71,7 +71,7 @@ func checkPeople(w api.World) api.Errno {
 
 // checkPerson validates a person that comes after the one with the key last.
 func checkPerson(p api.Person, last string, places map[string]int) api.Errno {
-	if e := checkKey(p.Key, last); e != api.OK {
+	if e := syntax.After(p.Key, last); e != api.OK {
 		return e
 	}
 	if e := checkNames(p.Names); e != api.OK {
@@ -84,17 +84,6 @@ func checkPerson(p api.Person, last string, places map[string]int) api.Errno {
 		return e
 	}
 	return checkAdvisers(p)
-}
-
-// checkKey needs no mark for the first key: every key is greater than an empty one.
-func checkKey(key, last string) api.Errno {
-	if !syntax.Key(key) {
-		return api.ErrName
-	}
-	if key <= last {
-		return api.ErrOrder
-	}
-	return api.OK
 }
 
 func checkNames(l []api.Naming) api.Errno {
@@ -172,7 +161,7 @@ func checkAdvisers(p api.Person) api.Errno {
 	}
 	last := ""
 	for _, a := range p.Advisers {
-		if e := checkKey(a, last); e != api.OK {
+		if e := syntax.After(a, last); e != api.OK {
 			return e
 		}
 		if a == p.Key {
@@ -273,21 +262,7 @@ func checkPaper(p api.Paper, last string, number map[string]int) api.Errno {
 			return api.ErrTwice
 		}
 	}
-	return checkTopics(p.Topics)
-}
-
-func checkTopics(l []string) api.Errno {
-	if len(l) > api.MaxTopics {
-		return api.ErrLarge
-	}
-	last := ""
-	for _, t := range l {
-		if e := checkKey(t, last); e != api.OK {
-			return e
-		}
-		last = t
-	}
-	return api.OK
+	return syntax.Rising(p.Topics, api.MaxTopics)
 }
 
 func compareHomes(a, b api.Home) int {

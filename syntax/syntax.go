@@ -1,4 +1,4 @@
-// Package syntax has the forms of strings that all chapters share: lines, numbers, keys and plain strings (Z9 to Z11 of the document).
+// Package syntax has the forms that all chapters share: lines, numbers, moments, keys, plain strings and texts (Z9 to Z11 of the document).
 package syntax
 
 import (
@@ -22,15 +22,55 @@ func Key(s string) bool {
 	return true
 }
 
+// After is what is wrong with a key behind another one. The first one of a list needs no mark: it is behind "", and every key is greater than that.
+func After(key, last string) api.Errno {
+	if !Key(key) {
+		return api.ErrName
+	}
+	if key <= last {
+		return api.ErrOrder
+	}
+	return api.OK
+}
+
+// Rising is what is wrong with a list of at most so many keys, each one greater than the one before.
+func Rising(keys []string, most int) api.Errno {
+	if len(keys) > most {
+		return api.ErrLarge
+	}
+	last := ""
+	for _, key := range keys {
+		if e := After(key, last); e != api.OK {
+			return e
+		}
+		last = key
+	}
+	return api.OK
+}
+
+// Moment reports whether a number is a moment.
+func Moment(n int) bool { return n >= 0 && n < api.End }
+
 // Plain reports whether a string is plain; an empty one is.
 func Plain(s string) bool {
 	for i := range len(s) {
-		if s[i] < 32 || s[i] == 127 {
+		if control(s[i]) {
 			return false
 		}
 	}
 	blankAtEnd := strings.HasPrefix(s, " ") || strings.HasSuffix(s, " ")
 	return utf8.ValidString(s) && !blankAtEnd && !strings.Contains(s, "  ")
+}
+
+// Text reports whether a string is a text.
+func Text(s string) bool {
+	for i := range len(s) {
+		if control(s[i]) && s[i] != '\n' {
+			return false
+		}
+	}
+	ended := s == "" || strings.HasSuffix(s, "\n")
+	return ended && utf8.ValidString(s)
 }
 
 // Number is the number that a string writes with at most so many digits, up to 18.
@@ -63,3 +103,5 @@ func Lines(s string) ([]string, bool) {
 func small(c byte) bool { return c >= 'a' && c <= 'z' }
 
 func digit(c byte) bool { return c >= '0' && c <= '9' }
+
+func control(c byte) bool { return c < 32 || c == 127 }

@@ -1,6 +1,7 @@
 package syntax
 
 import (
+	"math"
 	"slices"
 	"strconv"
 	"strings"
@@ -34,6 +35,54 @@ func TestPlain(t *testing.T) {
 		if Plain(s) {
 			t.Errorf("%q is not plain", s)
 		}
+	}
+}
+
+// Z11: texts.
+func TestText(t *testing.T) {
+	for _, s := range []string{"", "\n", "a\n", " a  b \n\nc\n", "\n\n", "Ä\u20ac\U0010ffff\u0080\n", "~\n", "\ufffd\n"} {
+		if !Text(s) {
+			t.Errorf("%q is a text", s)
+		}
+	}
+	for _, s := range []string{"a", " ", "\na", "a\n ", "a\tb\n", "a\r\n", "\x00\n", "\x1f\n", "\x7f\n", "\x80\n", "\xff\n", "\xc0\x80\n", "\xed\xa0\x80\n", "\xf4\x90\x80\x80\n", "\xe2\x82\n"} {
+		if Text(s) {
+			t.Errorf("%q is no text", s)
+		}
+	}
+}
+
+// Z11: moments.
+func TestMoment(t *testing.T) {
+	for n, want := range map[int]bool{0: true, 1: true, api.End - 1: true, -1: false, api.End: false, math.MinInt: false, math.MaxInt: false} {
+		if Moment(n) != want {
+			t.Errorf("%d", n)
+		}
+	}
+}
+
+// Z11: keys in order.
+func TestRising(t *testing.T) {
+	for _, c := range []struct {
+		keys []string
+		want api.Errno
+	}{
+		{nil, api.OK},
+		{[]string{"a"}, api.OK},
+		{[]string{"a", "a0", "b"}, api.OK},
+		{[]string{"a", "b", "c", "d"}, api.ErrLarge},
+		{[]string{"", "", "", ""}, api.ErrLarge},
+		{[]string{""}, api.ErrName},
+		{[]string{"b", "A"}, api.ErrName},
+		{[]string{"b", "b", "A"}, api.ErrOrder},
+		{[]string{"b", "c", "a"}, api.ErrOrder},
+	} {
+		if e := Rising(c.keys, 3); e != c.want {
+			t.Errorf("%q: %d", c.keys, e)
+		}
+	}
+	if e := After("b", "a"); e != api.OK {
+		t.Error(e)
 	}
 }
 
