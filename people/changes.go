@@ -5,6 +5,7 @@ import (
 	"slices"
 
 	"rebuttal/api"
+	"rebuttal/index"
 )
 
 // Rename gives a person a name from a day on.
@@ -90,16 +91,15 @@ func MergePlaces(w api.World, into, from string) (api.World, api.Errno) {
 	if e := Check(w); e != api.OK {
 		return api.World{}, e
 	}
-	number := placeNumbers(w.Places)
-	i, j, e := two(number, into, from)
+	number, parent, _ := linked(w.Places)
+	i, j, e := index.Two(number, into, from)
 	if e != api.OK {
 		return api.World{}, e
 	}
-	parent := parents(w.Places, number)
-	if inside(parent, i, j) {
+	if index.Inside(parent, i, j) {
 		return api.World{}, api.ErrLoop
 	}
-	if parent[j] != top && !inside(parent, i, parent[j]) {
+	if parent[j] != index.Top && !index.Inside(parent, i, parent[j]) {
 		return api.World{}, api.ErrRule
 	}
 	c := clone(w)
@@ -127,7 +127,7 @@ func twoPersons(w api.World, a, b string) (int, int, api.Errno) {
 	if e := Check(w); e != api.OK {
 		return 0, 0, e
 	}
-	i, j, e := two(personNumbers(w.People), a, b)
+	i, j, e := index.Two(personNumbers(w.People), a, b)
 	if e != api.OK {
 		return 0, 0, e
 	}

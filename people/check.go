@@ -6,12 +6,13 @@ import (
 	"strings"
 
 	"rebuttal/api"
+	"rebuttal/index"
 	"rebuttal/syntax"
 )
 
 // Check validates a world.
 func Check(w api.World) api.Errno {
-	if e := checkPlaces(w.Places); e != api.OK {
+	if _, _, e := linked(w.Places); e != api.OK {
 		return e
 	}
 	if e := checkPeople(w); e != api.OK {
@@ -227,7 +228,7 @@ func checkBonds(l []api.Bond, number map[string]int) api.Errno {
 		return api.ErrLarge
 	}
 	for i, b := range l {
-		if _, _, e := two(number, b.A, b.B); e != api.OK {
+		if _, _, e := index.Two(number, b.A, b.B); e != api.OK {
 			return e
 		}
 		if b.B <= b.A || i > 0 && compareBonds(l[i-1], b) >= 0 {

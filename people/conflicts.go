@@ -4,6 +4,7 @@ import (
 	"slices"
 
 	"rebuttal/api"
+	"rebuttal/index"
 )
 
 // Partners are the persons with whom somebody wrote.
@@ -146,7 +147,7 @@ func pairOn(w api.World, t api.Terms, a, b string, day int) (*facts, int, int, a
 	if e := CheckTerms(t); e != api.OK {
 		return nil, 0, 0, e
 	}
-	i, j, e := two(personNumbers(w.People), a, b)
+	i, j, e := index.Two(personNumbers(w.People), a, b)
 	if e != api.OK {
 		return nil, 0, 0, e
 	}

@@ -3,33 +3,15 @@ package people
 
 import (
 	"rebuttal/api"
+	"rebuttal/index"
 )
 
-// numbers are the places of keys in a list.
-func numbers[T any](l []T, key func(T) string) map[string]int {
-	m := make(map[string]int, len(l))
-	for i, x := range l {
-		m[key(x)] = i
-	}
-	return m
-}
-
 func personNumbers(l []api.Person) map[string]int {
-	return numbers(l, func(p api.Person) string { return p.Key })
+	return index.Of(l, func(p api.Person) string { return p.Key })
 }
 
 func placeNumbers(l []api.Place) map[string]int {
-	return numbers(l, func(p api.Place) string { return p.Key })
-}
-
-// two are the numbers of two keys; ErrNone if one of them is not known.
-func two(number map[string]int, a, b string) (int, int, api.Errno) {
-	i, knownA := number[a]
-	j, knownB := number[b]
-	if !knownA || !knownB {
-		return 0, 0, api.ErrNone
-	}
-	return i, j, api.OK
+	return index.Of(l, func(p api.Place) string { return p.Key })
 }
 
 func isDay(day int) bool { return day >= 0 && day <= api.MaxDay }

@@ -78,16 +78,9 @@ func writePerson(p api.Person, line func(...string)) {
 
 // Read reads a world.
 func Read(text string) (api.World, int, api.Errno) {
-	if len(text) > api.MaxText {
-		return api.World{}, 0, api.ErrLarge
-	}
-	lines, ended := syntax.Lines(text)
 	var r reader
-	for i, line := range lines {
-		last := i == len(lines)-1
-		if !r.read(line) || last && !ended {
-			return api.World{}, i, api.ErrSyntax
-		}
+	if line, e := syntax.Read(text, r.read); e != api.OK {
+		return api.World{}, line, e
 	}
 	w, e := checked(r.world)
 	return w, 0, e

@@ -6,6 +6,7 @@ import (
 	"strings"
 
 	"rebuttal/api"
+	"rebuttal/exact"
 	"rebuttal/syntax"
 )
 
@@ -152,7 +153,7 @@ func overlap(a, b []int, least int) api.Fraction {
 		}
 	})
 	f, g := share(inA), share(inB)
-	if compareFractions(f, g) < 0 {
+	if exact.Compare(f, g) < 0 {
 		return g
 	}
 	return f
@@ -166,26 +167,12 @@ func share(l []bool) api.Fraction {
 			n++
 		}
 	}
-	if n == 0 {
-		return api.Fraction{Num: 0, Den: 1}
-	}
-	d := divisor(n, len(l))
-	return api.Fraction{Num: n / d, Den: len(l) / d}
+	return exact.Lowest(n, max(len(l), 1))
 }
-
-// divisor is the greatest one of two numbers.
-func divisor(a, b int) int {
-	for b > 0 {
-		a, b = b, a%b
-	}
-	return a
-}
-
-func compareFractions(f, g api.Fraction) int { return cmp.Compare(f.Num*g.Den, g.Num*f.Den) }
 
 func compareTwins(a, b api.Twins) int {
 	return cmp.Or(
-		compareFractions(b.Overlap, a.Overlap),
+		exact.Compare(b.Overlap, a.Overlap),
 		strings.Compare(a.A, b.A),
 		strings.Compare(a.B, b.B),
 	)

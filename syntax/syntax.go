@@ -100,6 +100,21 @@ func Lines(s string) ([]string, bool) {
 	return strings.Split(rest, "\n"), ended
 }
 
+// Read hands over the lines of a string, one after the other. ErrLarge if it has more than MaxText bytes; ErrSyntax, and the number of the line, for the first one that is not accepted, or that no line feed ends.
+func Read(text string, accept func(string) bool) (int, api.Errno) {
+	if len(text) > api.MaxText {
+		return 0, api.ErrLarge
+	}
+	lines, ended := Lines(text)
+	for i, line := range lines {
+		last := i == len(lines)-1
+		if !accept(line) || last && !ended {
+			return i, api.ErrSyntax
+		}
+	}
+	return 0, api.OK
+}
+
 func small(c byte) bool { return c >= 'a' && c <= 'z' }
 
 func digit(c byte) bool { return c >= '0' && c <= '9' }

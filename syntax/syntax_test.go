@@ -130,3 +130,42 @@ func TestLines(t *testing.T) {
 		}
 	}
 }
+
+// Z9: lines that are read one after the other.
+func TestRead(t *testing.T) {
+	for _, c := range []struct {
+		text string
+		line int
+		want api.Errno
+		read string
+	}{
+		{"", 0, api.OK, ""},
+		{"a\n", 0, api.OK, "a|"},
+		{"a\n\nb\n", 0, api.OK, "a||b|"},
+		{"a\nx\nb", 1, api.ErrSyntax, "a|x|"},
+		{"x\nx\n", 0, api.ErrSyntax, "x|"},
+		{"a\nb", 1, api.ErrSyntax, "a|b|"},
+		{"a", 0, api.ErrSyntax, "a|"},
+		{"\n\nx", 2, api.ErrSyntax, "||x|"},
+	} {
+		read := ""
+		n, e := Read(c.text, func(line string) bool {
+			read += line + "|"
+			return line != "x"
+		})
+		if n != c.line || e != c.want || read != c.read {
+			t.Errorf("%q: %d, %d, %q", c.text, n, e, read)
+		}
+	}
+	lines := 0
+	count := func(string) bool {
+		lines++
+		return true
+	}
+	if n, e := Read(strings.Repeat("\n", api.MaxText), count); n != 0 || e != api.OK || lines != api.MaxText {
+		t.Error(n, e, lines)
+	}
+	if n, e := Read(strings.Repeat("x", api.MaxText+1), count); n != 0 || e != api.ErrLarge || lines != api.MaxText {
+		t.Error(n, e, lines)
+	}
+}
