@@ -2,8 +2,6 @@
 package submit
 
 import (
-	"slices"
-
 	"rebuttal/api"
 	"rebuttal/syntax"
 )
@@ -47,16 +45,5 @@ func checkAuthors(l []string) api.Errno {
 	if len(l) == 0 {
 		return api.ErrNone
 	}
-	if len(l) > api.MaxAuthors {
-		return api.ErrLarge
-	}
-	for i, a := range l {
-		if !syntax.Key(a) {
-			return api.ErrName
-		}
-		if slices.Contains(l[:i], a) {
-			return api.ErrTwice
-		}
-	}
-	return api.OK
+	return syntax.Distinct(l, api.MaxAuthors)
 }

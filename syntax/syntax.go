@@ -2,6 +2,7 @@
 package syntax
 
 import (
+	"slices"
 	"strconv"
 	"strings"
 	"unicode/utf8"
@@ -44,6 +45,22 @@ func Rising(keys []string, most int) api.Errno {
 			return e
 		}
 		last = key
+	}
+	return api.OK
+}
+
+// Distinct is what is wrong with a list of at most so many keys, each one for the first time.
+func Distinct(keys []string, most int) api.Errno {
+	if len(keys) > most {
+		return api.ErrLarge
+	}
+	for i, key := range keys {
+		if !Key(key) {
+			return api.ErrName
+		}
+		if slices.Contains(keys[:i], key) {
+			return api.ErrTwice
+		}
 	}
 	return api.OK
 }

@@ -61,6 +61,29 @@ func TestMoment(t *testing.T) {
 	}
 }
 
+// Z11: keys that differ.
+func TestDistinct(t *testing.T) {
+	for _, c := range []struct {
+		keys []string
+		want api.Errno
+	}{
+		{nil, api.OK},
+		{[]string{"a"}, api.OK},
+		{[]string{"b", "a", "a0"}, api.OK},
+		{[]string{"a", "b", "c", "d"}, api.ErrLarge},
+		{[]string{"", "", "", ""}, api.ErrLarge},
+		{[]string{""}, api.ErrName},
+		{[]string{"A", "A"}, api.ErrName},
+		{[]string{"b", "A", "b"}, api.ErrName},
+		{[]string{"b", "b", "A"}, api.ErrTwice},
+		{[]string{"b", "a", "b"}, api.ErrTwice},
+	} {
+		if e := Distinct(c.keys, 3); e != c.want {
+			t.Errorf("%q: got %d, want %d", c.keys, e, c.want)
+		}
+	}
+}
+
 // Z11: keys in order.
 func TestRising(t *testing.T) {
 	for _, c := range []struct {

@@ -3,10 +3,10 @@ package topic
 import (
 	"cmp"
 	"slices"
-	"strings"
 
 	"rebuttal/api"
 	"rebuttal/index"
+	"rebuttal/pairs"
 	"rebuttal/submit"
 	"rebuttal/syntax"
 )
@@ -27,11 +27,8 @@ func CheckBids(b []api.Bid) api.Errno {
 	}
 	var last api.Pair
 	for _, bid := range b {
-		if !syntax.Key(bid.Paper) || !syntax.Key(bid.Person) {
-			return api.ErrName
-		}
-		if comparePairs(bid.Pair, last) <= 0 {
-			return api.ErrOrder
+		if e := pairs.After(bid.Pair, last); e != api.OK {
+			return e
 		}
 		if bid.Level == api.BidNone || !isLevel(bid.Level) {
 			return api.ErrKind
@@ -181,10 +178,6 @@ func checkBidders(papers []api.Paper, r []api.Reader, b []api.Bid) api.Errno {
 
 func paperNumbers(l []api.Paper) map[string]int {
 	return index.Of(l, func(p api.Paper) string { return p.Id })
-}
-
-func comparePairs(a, b api.Pair) int {
-	return cmp.Or(strings.Compare(a.Paper, b.Paper), strings.Compare(a.Person, b.Person))
 }
 
 // worthOf are the worths of pairs with the Affinity 1, by the level of the bid.
