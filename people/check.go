@@ -7,6 +7,7 @@ import (
 
 	"rebuttal/api"
 	"rebuttal/index"
+	"rebuttal/papers"
 	"rebuttal/syntax"
 )
 
@@ -41,18 +42,13 @@ func CheckPapers(w api.World, l []api.Paper) api.Errno {
 	if e := Check(w); e != api.OK {
 		return e
 	}
-	if len(l) > api.MaxPapers {
-		return api.ErrLarge
-	}
 	number := personNumbers(w.People)
-	last := ""
-	for _, p := range l {
-		if e := checkPaper(p, last, number); e != api.OK {
-			return e
+	return papers.Check(l, func(author string) api.Errno {
+		if _, known := number[author]; !known {
+			return api.ErrNone
 		}
-		last = p.Id
-	}
-	return api.OK
+		return api.OK
+	})
 }
 
 func checkPeople(w api.World) api.Errno {
@@ -236,34 +232,6 @@ func checkBonds(l []api.Bond, number map[string]int) api.Errno {
 		}
 	}
 	return api.OK
-}
-
-// checkPaper validates a paper that comes after the one with the id last.
-func checkPaper(p api.Paper, last string, number map[string]int) api.Errno {
-	if !syntax.Key(p.Id) || !syntax.Key(p.Track) {
-		return api.ErrName
-	}
-	if p.Id <= last {
-		return api.ErrOrder
-	}
-	if p.Title == "" || len(p.Title) > api.MaxTitle || !syntax.Plain(p.Title) {
-		return api.ErrForm
-	}
-	if len(p.Authors) == 0 {
-		return api.ErrForm
-	}
-	if len(p.Authors) > api.MaxAuthors {
-		return api.ErrLarge
-	}
-	for i, a := range p.Authors {
-		if _, known := number[a]; !known {
-			return api.ErrNone
-		}
-		if slices.Contains(p.Authors[:i], a) {
-			return api.ErrTwice
-		}
-	}
-	return syntax.Rising(p.Topics, api.MaxTopics)
 }
 
 func compareHomes(a, b api.Home) int {

@@ -1,0 +1,270 @@
+package review
+
+import (
+	"slices"
+	"strconv"
+	"strings"
+
+	"rebuttal/api"
+	"rebuttal/syntax"
+)
+
+// Words of lines.
+const (
+	wordReview = "review"
+	wordDone   = "done"
+	wordDraft  = "draft"
+	wordNeeded = "needed"
+	wordSecret = "secret"
+	noHelper   = "-" // stands for the By of a review that has none
+	quote      = "|" // is before each line of Words
+)
+
+// kindWords are the words of the kinds of questions.
+var kindWords = [...]string{api.QuestScore: "score", api.QuestChoice: "choice", api.QuestWords: "words"}
+
+// maxDigits is how many digits a number in a text has at most.
+const maxDigits = 9
+
+// TextSheet writes questions.
+func TextSheet(l []api.Question) (string, api.Errno) {
+	if e := CheckSheet(l); e != api.OK {
+		return "", e
+	}
+	var b strings.Builder
+	for _, q := range l {
+		b.WriteString(questionLine(q))
+	}
+	// The greatest sheet has far fewer than MaxText bytes.
+	return b.String(), api.OK
+}
+
+// ReadSheet reads questions.
+func ReadSheet(text string) ([]api.Question, int, api.Errno) {
+	var l []api.Question
+	line, e := syntax.Read(text, func(line string) bool {
+		q, ok := readQuestion(line)
+		l = append(l, q)
+		return ok
+	})
+	if e != api.OK {
+		return nil, line, e
+	}
+	if e := CheckSheet(l); e != api.OK {
+		return nil, 0, e
+	}
+	return l, 0, api.OK
+}
+
+// Text writes reviews.
+func Text(s api.Setup, l []api.Review) (string, api.Errno) {
+	x, e := newBook(s, l)
+	if e != api.OK {
+		return "", e
+	}
+	var b strings.Builder
+	for _, r := range l {
+		b.WriteString(reviewLine(r))
+		for _, a := range r.Answers {
+			b.WriteString(x.sheet.text(a))
+		}
+		if b.Len() > api.MaxText {
+			return "", api.ErrLarge
+		}
+	}
+	return b.String(), api.OK
+}
+
+// Read reads reviews.
+func Read(s api.Setup, text string) ([]api.Review, int, api.Errno) {
+	x, e := newSetup(s)
+	if e != api.OK {
+		return nil, 0, e
+	}
+	r := reader{sheet: x.sheet}
+	if line, e := syntax.Read(text, r.read); e != api.OK {
+		return nil, line, e
+	}
+	if r.answers > 0 || r.lines > 0 {
+		return nil, strings.Count(text, "\n"), api.ErrSyntax
+	}
+	if e := x.check(r.reviews); e != api.OK {
+		return nil, 0, e
+	}
+	return r.reviews, 0, api.OK
+}
+
+func lineOf(words ...string) string { return strings.Join(words, " ") + "\n" }
+
+func questionLine(q api.Question) string {
+	var words []string
+	if q.Needed {
+		words = append(words, wordNeeded)
+	}
+	if q.Secret {
+		words = append(words, wordSecret)
+	}
+	words = append(words, kindWords[q.Kind], q.Key)
+	if q.Kind == api.QuestChoice {
+		return lineOf(append(words, q.Options...)...)
+	}
+	return lineOf(append(words, strconv.Itoa(q.Most))...)
+}
+
+func reviewLine(r api.Review) string {
+	by, state := r.By, wordDraft
+	if by == "" {
+		by = noHelper
+	}
+	if r.Done {
+		state = wordDone
+	}
+	return lineOf(wordReview, strconv.Itoa(r.No), strconv.Itoa(r.At), r.Paper, r.Person, by, state, strconv.Itoa(len(r.Answers)))
+}
+
+// text is an answer as it is in Text.
+func (s *sheet) text(a api.Answer) string {
+	q, _ := s.question(a.Question)
+	word := kindWords[q.Kind]
+	switch q.Kind {
+	case api.QuestScore:
+		return lineOf(word, a.Question, strconv.Itoa(a.Number))
+	case api.QuestChoice:
+		return lineOf(word, a.Question, a.Option)
+	}
+	lines := strings.TrimSuffix(a.Words, "\n")
+	return lineOf(word, a.Question, strconv.Itoa(strings.Count(a.Words, "\n"))) + quote + strings.ReplaceAll(lines, "\n", "\n"+quote) + "\n"
+}
+
+// kindOf is the kind of question that a word names, or 0.
+func kindOf(word string) int {
+	for kind, w := range kindWords {
+		if w == word {
+			return kind
+		}
+	}
+	return 0
+}
+
+func readQuestion(line string) (api.Question, bool) {
+	words := strings.Split(line, " ")
+	if slices.Contains(words, "") {
+		return api.Question{}, false
+	}
+	var q api.Question
+	q.Needed, words = cutWord(words, wordNeeded)
+	q.Secret, words = cutWord(words, wordSecret)
+	if len(words) < 2 {
+		return api.Question{}, false
+	}
+	q.Kind, q.Key = kindOf(words[0]), words[1]
+	switch {
+	case q.Kind == api.QuestChoice:
+		q.Options = words[2:]
+		return q, true
+	case q.Kind == 0 || len(words) != 3:
+		return api.Question{}, false
+	}
+	most, ok := syntax.Number(words[2], maxDigits)
+	q.Most = most
+	return q, ok
+}
+
+// cutWord says whether words begin with one, and leaves it out.
+func cutWord(words []string, word string) (bool, []string) {
+	if len(words) == 0 || words[0] != word {
+		return false, words
+	}
+	return true, words[1:]
+}
+
+// reader has the reviews of the lines so far.
+type reader struct {
+	sheet   *sheet
+	reviews []api.Review
+	answers int             // how many the last review lacks
+	lines   int             // how many the Words of the last answer lack
+	words   strings.Builder // the lines of these Words so far
+}
+
+// read adds a line, if it has one of the forms, and can be where it is.
+func (r *reader) read(line string) bool {
+	rest, quoted := strings.CutPrefix(line, quote)
+	if r.lines > 0 || quoted {
+		return r.lines > 0 && quoted && r.addLine(rest)
+	}
+	words := strings.Split(line, " ")
+	if slices.Contains(words, "") {
+		return false
+	}
+	if r.answers > 0 {
+		return r.addAnswer(words)
+	}
+	return r.addReview(words)
+}
+
+func (r *reader) addReview(words []string) bool {
+	if len(words) != 8 || words[0] != wordReview {
+		return false
+	}
+	state := words[6]
+	if state != wordDone && state != wordDraft {
+		return false
+	}
+	no, okNo := syntax.Number(words[1], maxDigits)
+	at, okAt := syntax.Number(words[2], maxDigits)
+	answers, okAnswers := readCount(words[7])
+	by := words[5]
+	if by == noHelper {
+		by = ""
+	}
+	r.answers = answers
+	r.reviews = append(r.reviews, api.Review{No: no, At: at, Paper: words[3], Person: words[4], By: by, Done: state == wordDone})
+	return okNo && okAt && okAnswers
+}
+
+// addAnswer adds one to the last review. If the sheet has no such question, it can be of any kind.
+func (r *reader) addAnswer(words []string) bool {
+	if len(words) != 3 {
+		return false
+	}
+	kind := kindOf(words[0])
+	q, known := r.sheet.question(words[1])
+	if known && q.Kind != kind {
+		return false
+	}
+	a := api.Answer{Question: words[1]}
+	ok := true
+	switch kind {
+	case api.QuestScore:
+		a.Number, ok = readCount(words[2])
+	case api.QuestChoice:
+		a.Option = words[2]
+	case api.QuestWords:
+		r.lines, ok = readCount(words[2])
+	default:
+		return false
+	}
+	last := &r.reviews[len(r.reviews)-1]
+	last.Answers = append(last.Answers, a)
+	r.answers--
+	return ok
+}
+
+// addLine adds one to the Words of the last answer.
+func (r *reader) addLine(words string) bool {
+	r.words.WriteString(words + "\n")
+	r.lines--
+	if r.lines == 0 {
+		answers := r.reviews[len(r.reviews)-1].Answers
+		answers[len(answers)-1].Words = r.words.String()
+		r.words.Reset()
+	}
+	return true
+}
+
+// readCount is a number that is not below 0.
+func readCount(word string) (int, bool) {
+	n, ok := syntax.Number(word, maxDigits)
+	return n, ok && n >= 0
+}
