@@ -5,6 +5,7 @@ import (
 	"slices"
 
 	"rebuttal/api"
+	"rebuttal/exact"
 	"rebuttal/index"
 	"rebuttal/pairs"
 	"rebuttal/submit"
@@ -40,7 +41,7 @@ func CheckBids(b []api.Bid) api.Errno {
 
 // Worth is how much a pair is worth.
 func Worth(f api.Fraction, bid int) (int, api.Errno) {
-	if e := checkFractions(f); e != api.OK {
+	if e := exact.Check(0, f); e != api.OK {
 		return 0, e
 	}
 	if f.Num > f.Den {
