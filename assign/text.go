@@ -1,7 +1,6 @@
 package assign
 
 import (
-	"slices"
 	"strings"
 
 	"rebuttal/api"
@@ -26,7 +25,7 @@ func Text(l []api.Pair) (string, api.Errno) {
 	}
 	var b strings.Builder
 	for _, p := range l {
-		b.WriteString(p.Paper + " " + p.Person + "\n")
+		b.WriteString(syntax.Line(p.Paper, p.Person))
 	}
 	if b.Len() > api.MaxText {
 		return "", api.ErrLarge
@@ -38,8 +37,8 @@ func Text(l []api.Pair) (string, api.Errno) {
 func Read(text string) ([]api.Pair, int, api.Errno) {
 	var l []api.Pair
 	line, e := syntax.Read(text, func(line string) bool {
-		words := strings.Split(line, " ")
-		if len(words) != 2 || slices.Contains(words, "") {
+		words, ok := syntax.Words(line)
+		if !ok || len(words) != 2 {
 			return false
 		}
 		l = append(l, api.Pair{Paper: words[0], Person: words[1]})

@@ -6,6 +6,7 @@ import (
 	"slices"
 
 	"rebuttal/api"
+	"rebuttal/exact"
 )
 
 // Strongest orders papers by the strengths of ways.
@@ -26,7 +27,7 @@ func Strongest(l []api.Mark) ([]string, api.Errno) {
 				stronger++
 			}
 		}
-		worths[a] = worth{number(stronger)}
+		worths[a] = worth{exact.Whole(stronger)}
 	}
 	return t.sorted(worths), api.OK
 }

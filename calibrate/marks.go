@@ -6,37 +6,14 @@ import (
 
 	"rebuttal/api"
 	"rebuttal/index"
-	"rebuttal/pairs"
+	"rebuttal/marks"
 )
 
 // nobody is a number that no person has.
 const nobody = -1
 
 // CheckMarks validates marks.
-func CheckMarks(l []api.Mark) api.Errno {
-	if len(l) > api.MaxMarks {
-		return api.ErrLarge
-	}
-	var last api.Pair
-	same := 0
-	for _, m := range l {
-		if e := pairs.After(m.Pair, last); e != api.OK {
-			return e
-		}
-		if m.Score < 0 || m.Score > api.MaxScore {
-			return api.ErrArg
-		}
-		if m.Paper != last.Paper {
-			same = 0
-		}
-		same++
-		if same > api.MaxPerPaper {
-			return api.ErrLarge
-		}
-		last = m.Pair
-	}
-	return api.OK
-}
+func CheckMarks(l []api.Mark) api.Errno { return marks.Check(l, api.MaxPerPaper) }
 
 // PapersOf are the papers of marks.
 func PapersOf(l []api.Mark) ([]string, api.Errno) {

@@ -5,6 +5,7 @@ import (
 
 	"rebuttal/api"
 	"rebuttal/exact"
+	"rebuttal/marks"
 )
 
 // whole is a number that 1 to MaxPerPaper - 1 divide: differences to the mean of others are whole numbers of its parts.
@@ -12,7 +13,7 @@ const whole = 27_720
 
 // Mean is the mean of a paper's scores.
 func Mean(l []api.Mark, paper string) (api.Fraction, api.Errno) {
-	return ofPaper(l, paper, mean)
+	return ofPaper(l, paper, marks.Mean)
 }
 
 // Median is twice the median of a paper's scores.
@@ -109,8 +110,6 @@ func ofPaper[T any](l []api.Mark, paper string, measure func([]int) T) (T, api.E
 	return measure(t.scores(p, nobody)), api.OK
 }
 
-func mean(scores []int) api.Fraction { return exact.Lowest(sum(scores), len(scores)) }
-
 // median is twice the median.
 func median(scores []int) int {
 	l := slices.Sorted(slices.Values(scores))
@@ -123,15 +122,8 @@ func differences(scores []int) int {
 	for _, s := range scores {
 		squares += s * s
 	}
-	return 2 * (len(scores)*squares - sum(scores)*sum(scores))
-}
-
-func sum(l []int) int {
-	n := 0
-	for _, x := range l {
-		n += x
-	}
-	return n
+	sum := marks.Sum(scores)
+	return 2 * (len(scores)*squares - sum*sum)
 }
 
 // scoresBy are the scores that a person gives, by papers.

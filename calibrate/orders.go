@@ -6,6 +6,7 @@ import (
 
 	"rebuttal/api"
 	"rebuttal/exact"
+	"rebuttal/marks"
 )
 
 // orderRounds is how many rounds of Balanced an order takes.
@@ -90,11 +91,11 @@ type worth []api.Fraction
 func (t *table) way(how int) func(without int) []worth {
 	switch how {
 	case api.RankMean:
-		return t.each(func(p, without int) worth { return worth{mean(t.scores(p, without))} })
+		return t.each(func(p, without int) worth { return worth{marks.Mean(t.scores(p, without))} })
 	case api.RankMedian:
 		return t.each(func(p, without int) worth {
 			scores := t.scores(p, without)
-			return worth{number(median(scores)), mean(scores)}
+			return worth{exact.Whole(median(scores)), marks.Mean(scores)}
 		})
 	case api.RankPoints:
 		return t.each(func(p, without int) worth {
@@ -102,13 +103,13 @@ func (t *table) way(how int) func(without int) []worth {
 			return worth{exact.Lowest(points, max(chances, 1))}
 		})
 	case api.RankWins:
-		return t.each(func(p, without int) worth { return worth{number(t.standing(p, without))} })
+		return t.each(func(p, without int) worth { return worth{exact.Whole(t.standing(p, without))} })
 	case api.RankBalanced:
 		return func(without int) []worth {
 			var l []worth
 			levels, _ := t.balanced(orderRounds, without)
 			for _, level := range levels {
-				l = append(l, worth{number(level)})
+				l = append(l, worth{exact.Whole(level)})
 			}
 			return l
 		}
@@ -213,6 +214,3 @@ func (t *table) standing(p, without int) int {
 	}
 	return standing
 }
-
-// number is a whole number as a fraction.
-func number(n int) api.Fraction { return api.Fraction{Num: n, Den: 1} }

@@ -5,6 +5,7 @@ import (
 
 	"rebuttal/api"
 	"rebuttal/exact"
+	"rebuttal/marks"
 )
 
 // Strict is how kind people are.
@@ -85,7 +86,7 @@ func (t *table) gaps(l []api.Mark) iter.Seq2[api.Mark, int] {
 			if others == 0 {
 				continue
 			}
-			gap := whole*m.Score - whole/others*(sum(scores)-m.Score)
+			gap := whole*m.Score - whole/others*(marks.Sum(scores)-m.Score)
 			if !yield(m, gap) {
 				return
 			}

@@ -13,6 +13,9 @@ func Lowest(num, den int) api.Fraction {
 	return api.Fraction{Num: num / d, Den: den / d}
 }
 
+// Whole is a whole number as a fraction.
+func Whole(n int) api.Fraction { return api.Fraction{Num: n, Den: 1} }
+
 // Check is what is wrong with fractions whose Nums are from least to MaxDen: they are in lowest terms, and their Dens from 1 to MaxDen.
 func Check(least int, l ...api.Fraction) api.Errno {
 	for _, f := range l {

@@ -39,6 +39,14 @@ func TestLowest(t *testing.T) {
 	}
 }
 
+func TestWhole(t *testing.T) {
+	for _, n := range []int{0, 1, -1, 10, math.MinInt, math.MaxInt} {
+		if f := Whole(n); f != (api.Fraction{Num: n, Den: 1}) || f != Lowest(n, 1) {
+			t.Error(n, f)
+		}
+	}
+}
+
 func TestCheck(t *testing.T) {
 	for _, c := range []struct {
 		least, num, den int

@@ -65,7 +65,7 @@ func Latest(s api.Setup, l []api.Review, p api.Pair, at int) (api.Review, bool, 
 	if e != api.OK {
 		return api.Review{}, false, e
 	}
-	if e := cmp.Or(b.checkPair(p), checkMoment(at)); e != api.OK {
+	if e := cmp.Or(b.checkPair(p), syntax.CheckMoment(at)); e != api.OK {
 		return api.Review{}, false, e
 	}
 	r, there := b.latest(at)[p]
@@ -96,7 +96,7 @@ func bookAt(s api.Setup, l []api.Review, at int) (*book, api.Errno) {
 	if e != api.OK {
 		return nil, e
 	}
-	if e := checkMoment(at); e != api.OK {
+	if e := syntax.CheckMoment(at); e != api.OK {
 		return nil, e
 	}
 	return b, api.OK

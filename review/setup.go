@@ -29,7 +29,7 @@ func newSetup(s api.Setup) (*setup, api.Errno) {
 	if e != api.OK {
 		return nil, e
 	}
-	if e := papers.Check(s.Papers, checkKey); e != api.OK {
+	if e := papers.Check(s.Papers, syntax.CheckKey); e != api.OK {
 		return nil, e
 	}
 	x := &setup{Setup: s, sheet: sheet}
@@ -85,20 +85,6 @@ func (s *setup) wrote(p api.Pair) bool {
 
 // excluded reports whether a person is barred for a known paper, or an author of it.
 func (s *setup) excluded(p api.Pair) bool { return pairs.Has(s.Barred, p) || s.wrote(p) }
-
-func checkKey(key string) api.Errno {
-	if !syntax.Key(key) {
-		return api.ErrName
-	}
-	return api.OK
-}
-
-func checkMoment(at int) api.Errno {
-	if !syntax.Moment(at) {
-		return api.ErrArg
-	}
-	return api.OK
-}
 
 // isTime reports whether a number is a moment or End.
 func isTime(n int) bool { return n >= 0 && n <= api.End }

@@ -7,6 +7,7 @@ import (
 
 	"rebuttal/api"
 	"rebuttal/pairs"
+	"rebuttal/syntax"
 )
 
 // Level is what somebody sees of the review of a pair at a moment.
@@ -15,7 +16,7 @@ func Level(s api.Setup, l []api.Review, who string, p api.Pair, at int) (int, ap
 	if e != api.OK {
 		return 0, e
 	}
-	if e := cmp.Or(checkKey(who), b.checkPair(p), checkMoment(at)); e != api.OK {
+	if e := cmp.Or(syntax.CheckKey(who), b.checkPair(p), syntax.CheckMoment(at)); e != api.OK {
 		return 0, e
 	}
 	return b.level(who, p, at), api.OK
@@ -27,7 +28,7 @@ func Since(s api.Setup, l []api.Review, who string, p api.Pair) (int, api.Errno)
 	if e != api.OK {
 		return 0, e
 	}
-	if e := cmp.Or(checkKey(who), b.checkPair(p)); e != api.OK {
+	if e := cmp.Or(syntax.CheckKey(who), b.checkPair(p)); e != api.OK {
 		return 0, e
 	}
 	_, since := b.sight(who, p)
@@ -43,7 +44,7 @@ func View(s api.Setup, l []api.Review, who, paper string, at int) ([]api.Review,
 	if e != api.OK {
 		return nil, e
 	}
-	if e := cmp.Or(checkKey(who), b.checkPaper(paper), checkMoment(at)); e != api.OK {
+	if e := cmp.Or(syntax.CheckKey(who), b.checkPaper(paper), syntax.CheckMoment(at)); e != api.OK {
 		return nil, e
 	}
 	valid, latest := b.valid(at), b.latest(at)

@@ -6,6 +6,7 @@ import (
 	"slices"
 
 	"rebuttal/api"
+	"rebuttal/syntax"
 )
 
 // Stands is how far reviews are.
@@ -47,7 +48,7 @@ func Full(s api.Setup, l []api.Review, many, at int) ([]string, api.Errno) {
 	if many < 0 || many > api.MaxEach {
 		return nil, api.ErrArg
 	}
-	if e := checkMoment(at); e != api.OK {
+	if e := syntax.CheckMoment(at); e != api.OK {
 		return nil, e
 	}
 	count := map[string]int{}
@@ -76,7 +77,7 @@ func Marks(s api.Setup, l []api.Review, question string, at int) ([]api.Mark, ap
 	if q.Most > api.MaxScore {
 		return nil, api.ErrType
 	}
-	if e := checkMoment(at); e != api.OK {
+	if e := syntax.CheckMoment(at); e != api.OK {
 		return nil, e
 	}
 	valid := b.valid(at)
@@ -99,7 +100,7 @@ func Options(s api.Setup, l []api.Review, question, paper string, at int) ([]int
 	if e != api.OK {
 		return nil, e
 	}
-	if e := cmp.Or(b.checkPaper(paper), checkMoment(at)); e != api.OK {
+	if e := cmp.Or(b.checkPaper(paper), syntax.CheckMoment(at)); e != api.OK {
 		return nil, e
 	}
 	count := map[string]int{}

@@ -1,7 +1,6 @@
 package review
 
 import (
-	"slices"
 	"strconv"
 	"strings"
 
@@ -17,7 +16,6 @@ const (
 	wordNeeded = "needed"
 	wordSecret = "secret"
 	noHelper   = "-" // stands for the By of a review that has none
-	quote      = "|" // is before each line of Words
 )
 
 // kindWords are the words of the kinds of questions.
@@ -82,19 +80,17 @@ func Read(s api.Setup, text string) ([]api.Review, int, api.Errno) {
 		return nil, 0, e
 	}
 	r := reader{sheet: x.sheet}
-	if line, e := syntax.Read(text, r.read); e != api.OK {
+	if line, e := syntax.ReadQuoted(text, r.read, r.take); e != api.OK {
 		return nil, line, e
 	}
-	if r.answers > 0 || r.lines > 0 {
-		return nil, strings.Count(text, "\n"), api.ErrSyntax
+	if r.answers > 0 {
+		return nil, syntax.Height(text), api.ErrSyntax
 	}
 	if e := x.check(r.reviews); e != api.OK {
 		return nil, 0, e
 	}
 	return r.reviews, 0, api.OK
 }
-
-func lineOf(words ...string) string { return strings.Join(words, " ") + "\n" }
 
 func questionLine(q api.Question) string {
 	var words []string
@@ -106,9 +102,9 @@ func questionLine(q api.Question) string {
 	}
 	words = append(words, kindWords[q.Kind], q.Key)
 	if q.Kind == api.QuestChoice {
-		return lineOf(append(words, q.Options...)...)
+		return syntax.Line(append(words, q.Options...)...)
 	}
-	return lineOf(append(words, strconv.Itoa(q.Most))...)
+	return syntax.Line(append(words, strconv.Itoa(q.Most))...)
 }
 
 func reviewLine(r api.Review) string {
@@ -119,7 +115,7 @@ func reviewLine(r api.Review) string {
 	if r.Done {
 		state = wordDone
 	}
-	return lineOf(wordReview, strconv.Itoa(r.No), strconv.Itoa(r.At), r.Paper, r.Person, by, state, strconv.Itoa(len(r.Answers)))
+	return syntax.Line(wordReview, strconv.Itoa(r.No), strconv.Itoa(r.At), r.Paper, r.Person, by, state, strconv.Itoa(len(r.Answers)))
 }
 
 // text is an answer as it is in Text.
@@ -128,12 +124,11 @@ func (s *sheet) text(a api.Answer) string {
 	word := kindWords[q.Kind]
 	switch q.Kind {
 	case api.QuestScore:
-		return lineOf(word, a.Question, strconv.Itoa(a.Number))
+		return syntax.Line(word, a.Question, strconv.Itoa(a.Number))
 	case api.QuestChoice:
-		return lineOf(word, a.Question, a.Option)
+		return syntax.Line(word, a.Question, a.Option)
 	}
-	lines := strings.TrimSuffix(a.Words, "\n")
-	return lineOf(word, a.Question, strconv.Itoa(strings.Count(a.Words, "\n"))) + quote + strings.ReplaceAll(lines, "\n", "\n"+quote) + "\n"
+	return syntax.Line(word, a.Question, strconv.Itoa(syntax.Height(a.Words))) + syntax.Quote(a.Words)
 }
 
 // kindOf is the kind of question that a word names, or 0.
@@ -147,8 +142,8 @@ func kindOf(word string) int {
 }
 
 func readQuestion(line string) (api.Question, bool) {
-	words := strings.Split(line, " ")
-	if slices.Contains(words, "") {
+	words, ok := syntax.Words(line)
+	if !ok {
 		return api.Question{}, false
 	}
 	var q api.Question
@@ -182,25 +177,19 @@ func cutWord(words []string, word string) (bool, []string) {
 type reader struct {
 	sheet   *sheet
 	reviews []api.Review
-	answers int             // how many the last review lacks
-	lines   int             // how many the Words of the last answer lack
-	words   strings.Builder // the lines of these Words so far
+	answers int // how many the last review lacks
 }
 
-// read adds a line, if it has one of the forms, and can be where it is.
-func (r *reader) read(line string) bool {
-	rest, quoted := strings.CutPrefix(line, quote)
-	if r.lines > 0 || quoted {
-		return r.lines > 0 && quoted && r.addLine(rest)
-	}
-	words := strings.Split(line, " ")
-	if slices.Contains(words, "") {
-		return false
+// read adds a line, if it has one of the forms, and can be where it is. It returns how many lines of Words follow.
+func (r *reader) read(line string) (int, bool) {
+	words, ok := syntax.Words(line)
+	if !ok {
+		return 0, false
 	}
 	if r.answers > 0 {
 		return r.addAnswer(words)
 	}
-	return r.addReview(words)
+	return 0, r.addReview(words)
 }
 
 func (r *reader) addReview(words []string) bool {
@@ -213,7 +202,7 @@ func (r *reader) addReview(words []string) bool {
 	}
 	no, okNo := syntax.Number(words[1], maxDigits)
 	at, okAt := syntax.Number(words[2], maxDigits)
-	answers, okAnswers := readCount(words[7])
+	answers, okAnswers := syntax.Count(words[7], maxDigits)
 	by := words[5]
 	if by == noHelper {
 		by = ""
@@ -223,48 +212,33 @@ func (r *reader) addReview(words []string) bool {
 	return okNo && okAt && okAnswers
 }
 
-// addAnswer adds one to the last review. If the sheet has no such question, it can be of any kind.
-func (r *reader) addAnswer(words []string) bool {
+// addAnswer adds one to the last review. If the sheet has no such question, it can be of any kind. It returns how many lines of Words follow.
+func (r *reader) addAnswer(words []string) (lines int, ok bool) {
 	if len(words) != 3 {
-		return false
+		return 0, false
 	}
 	kind := kindOf(words[0])
 	q, known := r.sheet.question(words[1])
 	if known && q.Kind != kind {
-		return false
+		return 0, false
 	}
 	a := api.Answer{Question: words[1]}
-	ok := true
 	switch kind {
 	case api.QuestScore:
-		a.Number, ok = readCount(words[2])
+		a.Number, ok = syntax.Count(words[2], maxDigits)
 	case api.QuestChoice:
-		a.Option = words[2]
+		a.Option, ok = words[2], true
 	case api.QuestWords:
-		r.lines, ok = readCount(words[2])
-	default:
-		return false
+		lines, ok = syntax.Count(words[2], maxDigits)
 	}
 	last := &r.reviews[len(r.reviews)-1]
 	last.Answers = append(last.Answers, a)
 	r.answers--
-	return ok
+	return lines, ok
 }
 
-// addLine adds one to the Words of the last answer.
-func (r *reader) addLine(words string) bool {
-	r.words.WriteString(words + "\n")
-	r.lines--
-	if r.lines == 0 {
-		answers := r.reviews[len(r.reviews)-1].Answers
-		answers[len(answers)-1].Words = r.words.String()
-		r.words.Reset()
-	}
-	return true
-}
-
-// readCount is a number that is not below 0.
-func readCount(word string) (int, bool) {
-	n, ok := syntax.Number(word, maxDigits)
-	return n, ok && n >= 0
+// take is the Words of the last answer.
+func (r *reader) take(words string) {
+	answers := r.reviews[len(r.reviews)-1].Answers
+	answers[len(answers)-1].Words = words
 }

@@ -23,6 +23,14 @@ func Key(s string) bool {
 	return true
 }
 
+// CheckKey is what is wrong with a string that is to be a key.
+func CheckKey(s string) api.Errno {
+	if !Key(s) {
+		return api.ErrName
+	}
+	return api.OK
+}
+
 // After is what is wrong with a key behind another one. The first one of a list needs no mark: it is behind "", and every key is greater than that.
 func After(key, last string) api.Errno {
 	if !Key(key) {
@@ -68,6 +76,14 @@ func Distinct(keys []string, most int) api.Errno {
 // Moment reports whether a number is a moment.
 func Moment(n int) bool { return n >= 0 && n < api.End }
 
+// CheckMoment is what is wrong with a number that is to be a moment.
+func CheckMoment(n int) api.Errno {
+	if !Moment(n) {
+		return api.ErrArg
+	}
+	return api.OK
+}
+
 // Plain reports whether a string is plain; an empty one is.
 func Plain(s string) bool {
 	for i := range len(s) {
@@ -106,6 +122,27 @@ func Number(s string, most int) (int, bool) {
 	}
 	n, err := strconv.Atoi(s)
 	return n, err == nil
+}
+
+// Count is the number, not below 0, that a string writes with at most so many digits, up to 18.
+func Count(s string, most int) (int, bool) {
+	n, ok := Number(s, most)
+	if n < 0 {
+		return 0, false
+	}
+	return n, ok
+}
+
+// Line is a line of words with single blanks between, and its line feed.
+func Line(words ...string) string { return strings.Join(words, " ") + "\n" }
+
+// Words are those of a line, without its line feed; false if a word is empty.
+func Words(line string) ([]string, bool) {
+	words := strings.Split(line, " ")
+	if slices.Contains(words, "") {
+		return nil, false
+	}
+	return words, true
 }
 
 // Lines are the lines of a string, and whether a line feed ends the last one.

@@ -24,6 +24,20 @@ func TestKey(t *testing.T) {
 	}
 }
 
+// Z4: what is wrong with a key, or a moment, alone.
+func TestChecks(t *testing.T) {
+	for key, want := range map[string]api.Errno{"a": api.OK, strings.Repeat("k", api.MaxName): api.OK, "": api.ErrName, "A": api.ErrName} {
+		if e := CheckKey(key); e != want {
+			t.Errorf("%q: %d", key, e)
+		}
+	}
+	for n, want := range map[int]api.Errno{0: api.OK, api.End - 1: api.OK, -1: api.ErrArg, api.End: api.ErrArg, math.MinInt: api.ErrArg} {
+		if e := CheckMoment(n); e != want {
+			t.Errorf("%d: %d", n, e)
+		}
+	}
+}
+
 // Z11: plain strings.
 func TestPlain(t *testing.T) {
 	for _, s := range []string{"", "a", "a b", "a b c", "Ä b", "\u20ac", "\U0010ffff", "\u0080", "~", "!", "\u00a0 x"} {
@@ -129,6 +143,38 @@ func TestNumber(t *testing.T) {
 	}
 	if n, ok := Number("1000000000000000000", 100); n != 0 || ok {
 		t.Errorf("19 digits are read as %d, %t", n, ok)
+	}
+}
+
+// Z10: numbers that are not below 0.
+func TestCount(t *testing.T) {
+	for s, want := range map[string]int{"0": 0, "7": 7, "999999999": 999999999} {
+		if n, ok := Count(s, 9); n != want || !ok {
+			t.Errorf("%q is read as %d, %t", s, n, ok)
+		}
+	}
+	for _, s := range []string{"", "-1", "-0", "01", "-999999999", "1000000000", "x", "+1"} {
+		if n, ok := Count(s, 9); n != 0 || ok {
+			t.Errorf("%q is read as %d, %t", s, n, ok)
+		}
+	}
+}
+
+// Z9: words of a line.
+func TestWords(t *testing.T) {
+	for _, line := range []string{"a", "a b", "a |b \t", "ä\xff \r"} {
+		words, ok := Words(line)
+		if !ok || Line(words...) != line+"\n" || slices.Contains(words, "") {
+			t.Errorf("words of %q are %q, %t", line, words, ok)
+		}
+	}
+	for _, line := range []string{"", " ", "a ", " a", "a  b"} {
+		if words, ok := Words(line); words != nil || ok {
+			t.Errorf("words of %q are %q, %t", line, words, ok)
+		}
+	}
+	if Line() != "\n" || Line("a", "b c") != "a b c\n" {
+		t.Error(Line("a", "b c"))
 	}
 }
 
