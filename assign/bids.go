@@ -48,7 +48,7 @@ func newLeans(papers []api.Paper, bids []api.Pair) (map[string][]string, api.Err
 	if e := pairs.Check(bids); e != api.OK {
 		return nil, e
 	}
-	number := index.Of(papers, func(p api.Paper) string { return p.Id })
+	number := index.Of(papers, idOf)
 	leans := map[string][]string{}
 	for _, bid := range bids {
 		i, known := number[bid.Paper]
@@ -66,18 +66,7 @@ func newLeans(papers []api.Paper, bids []api.Pair) (map[string][]string, api.Err
 
 // checkWritten validates papers of which only the Ids and the authors count.
 func checkWritten(l []api.Paper) api.Errno {
-	if len(l) > api.MaxPapers {
-		return api.ErrLarge
-	}
-	last := ""
-	for _, p := range l {
-		if e := syntax.After(p.Id, last); e != api.OK {
-			return e
-		}
-		if e := syntax.Distinct(p.Authors, api.MaxAuthors); e != api.OK {
-			return e
-		}
-		last = p.Id
-	}
-	return api.OK
+	return syntax.RisingBy(l, api.MaxPapers, idOf, func(p api.Paper) api.Errno { return syntax.Distinct(p.Authors, api.MaxAuthors) })
 }
+
+func idOf(p api.Paper) string { return p.Id }

@@ -41,8 +41,8 @@ func newTable(t api.Task) (*table, api.Errno) {
 		return nil, e
 	}
 	b := &table{needs: t.Needs, loads: t.Loads, must: t.Locked}
-	b.paper = index.Of(t.Needs, func(n api.Need) string { return n.Paper })
-	b.person = index.Of(t.Loads, func(l api.Load) string { return l.Person })
+	b.paper = index.Of(t.Needs, paperOf)
+	b.person = index.Of(t.Loads, personOf)
 	if e := b.setWorths(t.Worths); e != api.OK {
 		return nil, e
 	}
@@ -71,38 +71,26 @@ func listed(t api.Task, l []api.Pair) (*table, api.Errno) {
 }
 
 func checkNeeds(l []api.Need) api.Errno {
-	if len(l) > api.MaxNeeds {
-		return api.ErrLarge
-	}
-	last := ""
-	for _, n := range l {
-		if e := syntax.After(n.Paper, last); e != api.OK {
-			return e
-		}
+	return syntax.RisingBy(l, api.MaxNeeds, paperOf, func(n api.Need) api.Errno {
 		if n.Readers < 0 || n.Readers > api.MaxEach {
 			return api.ErrArg
 		}
-		last = n.Paper
-	}
-	return api.OK
+		return api.OK
+	})
 }
 
 func checkLoads(l []api.Load) api.Errno {
-	if len(l) > api.MaxLoads {
-		return api.ErrLarge
-	}
-	last := ""
-	for _, n := range l {
-		if e := syntax.After(n.Person, last); e != api.OK {
-			return e
-		}
+	return syntax.RisingBy(l, api.MaxLoads, personOf, func(n api.Load) api.Errno {
 		if n.Least < 0 || n.Least > n.Most || n.Most > api.MaxNeeds {
 			return api.ErrArg
 		}
-		last = n.Person
-	}
-	return api.OK
+		return api.OK
+	})
 }
+
+func paperOf(n api.Need) string { return n.Paper }
+
+func personOf(l api.Load) string { return l.Person }
 
 func (b *table) setWorths(l []api.Worth) api.Errno {
 	if len(l) > api.MaxNeeds*api.MaxLoads {

@@ -84,20 +84,13 @@ func checkDecideRules(r api.DecideRules) api.Errno {
 }
 
 func checkQuotas(l []api.Quota) api.Errno {
-	if len(l) > api.MaxQuotas {
-		return api.ErrLarge
-	}
-	last := ""
-	for _, q := range l {
-		if e := syntax.After(q.Track, last); e != api.OK {
-			return e
-		}
+	track := func(q api.Quota) string { return q.Track }
+	return syntax.RisingBy(l, api.MaxQuotas, track, func(q api.Quota) api.Errno {
 		if q.Most < 0 || q.Most > api.MaxPapers {
 			return api.ErrArg
 		}
-		last = q.Track
-	}
-	return api.OK
+		return api.OK
+	})
 }
 
 // decide are the decisions on the papers of each track, the best paper first.

@@ -29,6 +29,21 @@ func Two(number map[string]int, a, b string) (int, int, api.Errno) {
 	return i, j, api.OK
 }
 
+// Rising is what is wrong with keys: ErrNone if there is no element with one; ErrOrder if it is not greater than the one before.
+func Rising(number map[string]int, keys []string) api.Errno {
+	last := ""
+	for _, key := range keys {
+		if _, known := number[key]; !known {
+			return api.ErrNone
+		}
+		if key <= last {
+			return api.ErrOrder
+		}
+		last = key
+	}
+	return api.OK
+}
+
 // Parents are the numbers of the elements next above. An element names the one above it by its key, or has an empty one instead. ErrNone if there is no element with a key; then ErrLoop if going up from an element one comes back to it.
 func Parents[T any](l []T, number map[string]int, above func(T) string) ([]int, api.Errno) {
 	parent := make([]int, len(l))

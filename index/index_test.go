@@ -21,6 +21,25 @@ func TestOf(t *testing.T) {
 	}
 }
 
+func TestRising(t *testing.T) {
+	number := Of([]string{"c", "a", "b"}, word)
+	for s, want := range map[string]api.Errno{
+		"":        api.OK,
+		"b":       api.OK,
+		"a b c":   api.OK,
+		"x":       api.ErrNone,
+		"a aa":    api.ErrNone,
+		"b b":     api.ErrOrder,
+		"a c b x": api.ErrOrder,
+		"b a":     api.ErrOrder,
+		"c x a":   api.ErrNone,
+	} {
+		if e := Rising(number, strings.Fields(s)); e != want {
+			t.Error(s, e)
+		}
+	}
+}
+
 func TestTwo(t *testing.T) {
 	number := map[string]int{"a": 3, "b": 0}
 	for _, c := range []struct {

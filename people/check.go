@@ -52,25 +52,12 @@ func CheckPapers(w api.World, l []api.Paper) api.Errno {
 }
 
 func checkPeople(w api.World) api.Errno {
-	if len(w.People) > api.MaxPeople {
-		return api.ErrLarge
-	}
 	places := placeNumbers(w.Places)
-	last := ""
-	for _, p := range w.People {
-		if e := checkPerson(p, last, places); e != api.OK {
-			return e
-		}
-		last = p.Key
-	}
-	return api.OK
+	return syntax.RisingBy(w.People, api.MaxPeople, personKey, func(p api.Person) api.Errno { return checkPerson(p, places) })
 }
 
-// checkPerson validates a person that comes after the one with the key last.
-func checkPerson(p api.Person, last string, places map[string]int) api.Errno {
-	if e := syntax.After(p.Key, last); e != api.OK {
-		return e
-	}
+// checkPerson validates a person, but for the key.
+func checkPerson(p api.Person, places map[string]int) api.Errno {
 	if e := checkNames(p.Names); e != api.OK {
 		return e
 	}
@@ -153,20 +140,13 @@ func isMail(s string) bool {
 }
 
 func checkAdvisers(p api.Person) api.Errno {
-	if len(p.Advisers) > api.MaxAdvised {
-		return api.ErrLarge
-	}
-	last := ""
-	for _, a := range p.Advisers {
-		if e := syntax.After(a, last); e != api.OK {
-			return e
-		}
-		if a == p.Key {
+	itself := func(adviser string) string { return adviser }
+	return syntax.RisingBy(p.Advisers, api.MaxAdvised, itself, func(adviser string) api.Errno {
+		if adviser == p.Key {
 			return api.ErrLoop
 		}
-		last = a
-	}
-	return api.OK
+		return api.OK
+	})
 }
 
 func checkKnown(l []api.Person, number map[string]int) api.Errno {
@@ -206,17 +186,7 @@ func checkWriters(l []string, number map[string]int) api.Errno {
 	if len(l) > api.MaxAuthors {
 		return api.ErrLarge
 	}
-	last := ""
-	for _, a := range l {
-		if _, known := number[a]; !known {
-			return api.ErrNone
-		}
-		if a <= last {
-			return api.ErrOrder
-		}
-		last = a
-	}
-	return api.OK
+	return index.Rising(number, l)
 }
 
 func checkBonds(l []api.Bond, number map[string]int) api.Errno {

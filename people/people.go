@@ -6,13 +6,13 @@ import (
 	"rebuttal/index"
 )
 
-func personNumbers(l []api.Person) map[string]int {
-	return index.Of(l, func(p api.Person) string { return p.Key })
-}
+func personNumbers(l []api.Person) map[string]int { return index.Of(l, personKey) }
 
-func placeNumbers(l []api.Place) map[string]int {
-	return index.Of(l, func(p api.Place) string { return p.Key })
-}
+func placeNumbers(l []api.Place) map[string]int { return index.Of(l, placeKey) }
+
+func personKey(p api.Person) string { return p.Key }
+
+func placeKey(p api.Place) string { return p.Key }
 
 func isDay(day int) bool { return day >= 0 && day <= api.MaxDay }
 

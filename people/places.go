@@ -48,20 +48,12 @@ func linked(l []api.Place) (map[string]int, []int, api.Errno) {
 
 // checkPlaces looks at each place by itself.
 func checkPlaces(l []api.Place) api.Errno {
-	if len(l) > api.MaxPlaces {
-		return api.ErrLarge
-	}
-	last := ""
-	for _, p := range l {
-		if e := syntax.After(p.Key, last); e != api.OK {
-			return e
-		}
+	return syntax.RisingBy(l, api.MaxPlaces, placeKey, func(p api.Place) api.Errno {
 		if p.Parent != "" && !syntax.Key(p.Parent) {
 			return api.ErrName
 		}
-		last = p.Key
-	}
-	return api.OK
+		return api.OK
+	})
 }
 
 // related says of all pairs of places, which are right, whether one is inside the other one.

@@ -16,20 +16,13 @@ func CheckCall(c api.Call) api.Errno {
 	if c.Full >= api.End {
 		return api.ErrArg
 	}
-	if len(c.Reasons) > api.MaxReasons {
-		return api.ErrLarge
-	}
-	last := ""
-	for _, r := range c.Reasons {
-		if e := syntax.After(r.Key, last); e != api.OK {
-			return e
-		}
+	key := func(r api.Reason) string { return r.Key }
+	return syntax.RisingBy(c.Reasons, api.MaxReasons, key, func(r api.Reason) api.Errno {
 		if r.More < 1 || r.More > api.End {
 			return api.ErrArg
 		}
-		last = r.Key
-	}
-	return api.OK
+		return api.OK
+	})
 }
 
 // CheckArrival validates an arrival.

@@ -44,15 +44,25 @@ func After(key, last string) api.Errno {
 
 // Rising is what is wrong with a list of at most so many keys, each one greater than the one before.
 func Rising(keys []string, most int) api.Errno {
-	if len(keys) > most {
+	itself := func(key string) string { return key }
+	right := func(string) api.Errno { return api.OK }
+	return RisingBy(keys, most, itself, right)
+}
+
+// RisingBy is what is wrong with a list of at most so many elements: of each one first with its key, which is greater than the one before, then what check finds.
+func RisingBy[T any](l []T, most int, key func(T) string, check func(T) api.Errno) api.Errno {
+	if len(l) > most {
 		return api.ErrLarge
 	}
 	last := ""
-	for _, key := range keys {
-		if e := After(key, last); e != api.OK {
+	for _, x := range l {
+		if e := After(key(x), last); e != api.OK {
 			return e
 		}
-		last = key
+		if e := check(x); e != api.OK {
+			return e
+		}
+		last = key(x)
 	}
 	return api.OK
 }

@@ -123,6 +123,36 @@ func TestRising(t *testing.T) {
 	}
 }
 
+// Z4: elements in the order of their keys, each one with what is wrong with it.
+func TestRisingBy(t *testing.T) {
+	key := func(s string) string { return strings.TrimSuffix(s, "!") }
+	check := func(s string) api.Errno {
+		if strings.HasSuffix(s, "!") {
+			return api.ErrSum
+		}
+		return api.OK
+	}
+	for _, c := range []struct {
+		words string
+		want  api.Errno
+	}{
+		{"", api.OK},
+		{"a a0 b", api.OK},
+		{"a! a b c", api.ErrLarge},
+		{"a b! a", api.ErrSum},
+		{"A!", api.ErrName},
+		{"a A! b!", api.ErrName},
+		{"b a!", api.ErrOrder},
+		{"b b! c!", api.ErrOrder},
+		{"b c a", api.ErrOrder},
+		{"a b c!", api.ErrSum},
+	} {
+		if e := RisingBy(strings.Fields(c.words), 3, key, check); e != c.want {
+			t.Errorf("%q: %d", c.words, e)
+		}
+	}
+}
+
 // Z10: numbers.
 func TestNumber(t *testing.T) {
 	for _, n := range []int{0, 1, 9, 10, 123456789, 999999999, -1, -10, -999999999} {

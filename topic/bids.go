@@ -147,26 +147,15 @@ func (f *forest) checkWanted(papers []api.Paper) api.Errno {
 }
 
 func (f *forest) checkReaders(l []api.Reader) api.Errno {
-	if len(l) > api.MaxReaders {
-		return api.ErrLarge
-	}
-	last := ""
-	for _, r := range l {
-		if e := syntax.After(r.Key, last); e != api.OK {
-			return e
-		}
-		if e := f.checkSkills(r.Skills); e != api.OK {
-			return e
-		}
-		last = r.Key
-	}
-	return api.OK
+	return syntax.RisingBy(l, api.MaxReaders, readerKey, func(r api.Reader) api.Errno { return f.checkSkills(r.Skills) })
 }
+
+func readerKey(r api.Reader) string { return r.Key }
 
 // checkBidders finds bids of unknown papers and persons.
 func checkBidders(papers []api.Paper, r []api.Reader, b []api.Bid) api.Errno {
 	paper := paperNumbers(papers)
-	person := index.Of(r, func(r api.Reader) string { return r.Key })
+	person := index.Of(r, readerKey)
 	for _, bid := range b {
 		_, knownPaper := paper[bid.Paper]
 		_, knownPerson := person[bid.Person]

@@ -5,6 +5,7 @@ import (
 
 	"rebuttal/api"
 	"rebuttal/exact"
+	"rebuttal/index"
 	"rebuttal/submit"
 	"rebuttal/syntax"
 )
@@ -148,15 +149,8 @@ func withTopics(l []api.Topic, s []api.Skill, topics []string) (*forest, api.Err
 	if len(topics) > api.MaxWanted {
 		return nil, api.ErrLarge
 	}
-	last := ""
-	for _, key := range topics {
-		if !f.has(key) {
-			return nil, api.ErrNone
-		}
-		if key <= last {
-			return nil, api.ErrOrder
-		}
-		last = key
+	if e := index.Rising(f.number, topics); e != api.OK {
+		return nil, e
 	}
 	return f, api.OK
 }
