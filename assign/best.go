@@ -5,6 +5,7 @@ import (
 	"sort"
 
 	"rebuttal/api"
+	"rebuttal/index"
 	"rebuttal/pairs"
 )
 
@@ -42,7 +43,7 @@ func Repair(t api.Task, l []api.Pair, gone []string) ([]api.Pair, int, api.Errno
 	if e != api.OK {
 		return nil, 0, e
 	}
-	if e := b.checkGone(gone); e != api.OK {
+	if e := index.Distinct(b.person, gone); e != api.OK {
 		return nil, 0, e
 	}
 	best, e := b.without(gone).keeping(l).settled()
@@ -83,20 +84,6 @@ func (b *table) from(least int) *table {
 		}
 	}
 	return &c
-}
-
-func (b *table) checkGone(gone []string) api.Errno {
-	seen := map[string]bool{}
-	for _, key := range gone {
-		if _, known := b.person[key]; !known {
-			return api.ErrNone
-		}
-		if seen[key] {
-			return api.ErrTwice
-		}
-		seen[key] = true
-	}
-	return api.OK
 }
 
 // without is the table with some persons who can read nothing, and need not.

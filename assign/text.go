@@ -1,8 +1,6 @@
 package assign
 
 import (
-	"strings"
-
 	"rebuttal/api"
 	"rebuttal/pairs"
 	"rebuttal/syntax"
@@ -23,14 +21,7 @@ func Text(l []api.Pair) (string, api.Errno) {
 	if e := pairs.Check(l); e != api.OK {
 		return "", e
 	}
-	var b strings.Builder
-	for _, p := range l {
-		b.WriteString(syntax.Line(p.Paper, p.Person))
-	}
-	if b.Len() > api.MaxText {
-		return "", api.ErrLarge
-	}
-	return b.String(), api.OK
+	return syntax.Write(l, func(p api.Pair) string { return syntax.Line(p.Paper, p.Person) })
 }
 
 // Read reads a list of pairs.

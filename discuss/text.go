@@ -2,7 +2,6 @@ package discuss
 
 import (
 	"strconv"
-	"strings"
 
 	"rebuttal/api"
 	"rebuttal/syntax"
@@ -19,14 +18,7 @@ func Text(b api.Board, l []api.Post) (string, api.Errno) {
 	if e := CheckPosts(b, l); e != api.OK {
 		return "", e
 	}
-	var s strings.Builder
-	for _, p := range l {
-		s.WriteString(postLine(p) + syntax.Quote(p.Words))
-		if s.Len() > api.MaxText {
-			return "", api.ErrLarge
-		}
-	}
-	return s.String(), api.OK
+	return syntax.Write(l, func(p api.Post) string { return postLine(p) + syntax.Quote(p.Words) })
 }
 
 // Read reads posts.

@@ -44,6 +44,21 @@ func Rising(number map[string]int, keys []string) api.Errno {
 	return api.OK
 }
 
+// Distinct is what is wrong with keys: ErrNone if there is no element with one; ErrTwice if an earlier one is the same.
+func Distinct(number map[string]int, keys []string) api.Errno {
+	there := map[string]bool{}
+	for _, key := range keys {
+		if _, known := number[key]; !known {
+			return api.ErrNone
+		}
+		if there[key] {
+			return api.ErrTwice
+		}
+		there[key] = true
+	}
+	return api.OK
+}
+
 // Parents are the numbers of the elements next above. An element names the one above it by its key, or has an empty one instead. ErrNone if there is no element with a key; then ErrLoop if going up from an element one comes back to it.
 func Parents[T any](l []T, number map[string]int, above func(T) string) ([]int, api.Errno) {
 	parent := make([]int, len(l))

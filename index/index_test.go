@@ -40,6 +40,25 @@ func TestRising(t *testing.T) {
 	}
 }
 
+func TestDistinct(t *testing.T) {
+	number := Of([]string{"c", "a", "b"}, word)
+	for s, want := range map[string]api.Errno{
+		"":        api.OK,
+		"b":       api.OK,
+		"b a c":   api.OK,
+		"x":       api.ErrNone,
+		"a aa":    api.ErrNone,
+		"b b":     api.ErrTwice,
+		"a c a x": api.ErrTwice,
+		"a x a":   api.ErrNone,
+		"x x":     api.ErrNone,
+	} {
+		if e := Distinct(number, strings.Fields(s)); e != want {
+			t.Error(s, e)
+		}
+	}
+}
+
 func TestTwo(t *testing.T) {
 	number := map[string]int{"a": 3, "b": 0}
 	for _, c := range []struct {

@@ -31,7 +31,7 @@ func check(p api.Paper, last string, author func(string) api.Errno) api.Errno {
 	if p.Id <= last {
 		return api.ErrOrder
 	}
-	if p.Title == "" || len(p.Title) > api.MaxTitle || !syntax.Plain(p.Title) {
+	if !syntax.Label(p.Title, api.MaxTitle) {
 		return api.ErrForm
 	}
 	if e := checkAuthors(p.Authors, author); e != api.OK {

@@ -78,7 +78,7 @@ func checkNames(l []api.Naming) api.Errno {
 		return api.ErrLarge
 	}
 	for i, n := range l {
-		if n.Name == "" || len(n.Name) > api.MaxNaming || !syntax.Plain(n.Name) {
+		if !syntax.Label(n.Name, api.MaxNaming) {
 			return api.ErrForm
 		}
 		if i == 0 && n.From != 0 || i > 0 && n.From <= l[i-1].From {

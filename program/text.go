@@ -18,17 +18,13 @@ func Print(g api.Grid, p []api.Session) (string, api.Errno) {
 	if e := Check(g, p); e != api.OK {
 		return "", e
 	}
-	var b strings.Builder
-	for _, s := range p {
-		b.WriteString(syntax.Line(wordSession, s.Slot, s.Room))
+	return syntax.Write(p, func(s api.Session) string {
+		written := syntax.Line(wordSession, s.Slot, s.Room)
 		for _, paper := range s.Papers {
-			b.WriteString(indent + syntax.Line(paper))
+			written += indent + syntax.Line(paper)
 		}
-	}
-	if b.Len() > api.MaxText {
-		return "", api.ErrLarge
-	}
-	return b.String(), api.OK
+		return written
+	})
 }
 
 // Read reads a programme.

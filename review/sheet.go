@@ -60,21 +60,11 @@ func newSheet(l []api.Question) (*sheet, api.Errno) {
 	if len(l) == 0 {
 		return nil, api.ErrForm
 	}
-	if len(l) > api.MaxQuestions {
-		return nil, api.ErrLarge
+	key := func(q api.Question) string { return q.Key }
+	if e := syntax.DistinctBy(l, api.MaxQuestions, key, checkKind); e != api.OK {
+		return nil, e
 	}
-	for i, q := range l {
-		if !syntax.Key(q.Key) {
-			return nil, api.ErrName
-		}
-		if slices.ContainsFunc(l[:i], func(o api.Question) bool { return o.Key == q.Key }) {
-			return nil, api.ErrTwice
-		}
-		if e := checkKind(q); e != api.OK {
-			return nil, e
-		}
-	}
-	return &sheet{questions: l, place: index.Of(l, func(q api.Question) string { return q.Key })}, api.OK
+	return &sheet{questions: l, place: index.Of(l, key)}, api.OK
 }
 
 // checkKind validates what belongs to the kind of a question.

@@ -2,7 +2,6 @@ package review
 
 import (
 	"strconv"
-	"strings"
 
 	"rebuttal/api"
 	"rebuttal/syntax"
@@ -29,12 +28,7 @@ func TextSheet(l []api.Question) (string, api.Errno) {
 	if e := CheckSheet(l); e != api.OK {
 		return "", e
 	}
-	var b strings.Builder
-	for _, q := range l {
-		b.WriteString(questionLine(q))
-	}
-	// The greatest sheet has far fewer than MaxText bytes.
-	return b.String(), api.OK
+	return syntax.Write(l, questionLine)
 }
 
 // ReadSheet reads questions.
@@ -60,17 +54,13 @@ func Text(s api.Setup, l []api.Review) (string, api.Errno) {
 	if e != api.OK {
 		return "", e
 	}
-	var b strings.Builder
-	for _, r := range l {
-		b.WriteString(reviewLine(r))
+	return syntax.Write(l, func(r api.Review) string {
+		written := reviewLine(r)
 		for _, a := range r.Answers {
-			b.WriteString(x.sheet.text(a))
+			written += x.sheet.text(a)
 		}
-		if b.Len() > api.MaxText {
-			return "", api.ErrLarge
-		}
-	}
-	return b.String(), api.OK
+		return written
+	})
 }
 
 // Read reads reviews.

@@ -82,7 +82,7 @@ func Cover(text string, l []api.Give) (string, api.Errno) {
 }
 
 func isName(s string) bool {
-	if len(s) < 1 || len(s) > maxNameBytes || !syntax.Plain(s) {
+	if !syntax.Label(s, maxNameBytes) {
 		return false
 	}
 	n := len(placedWords(s))

@@ -25,7 +25,7 @@ func CheckForm(f api.Form) api.Errno {
 		return api.ErrLarge
 	}
 	for i, title := range f.Must {
-		if title == "" || len(title) > maxHeading || !syntax.Plain(title) || title != lower(title) {
+		if !syntax.Label(title, maxHeading) || title != lower(title) {
 			return api.ErrForm
 		}
 		if slices.Contains(f.Must[:i], title) {

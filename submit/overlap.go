@@ -87,21 +87,8 @@ func checkRunText(text string) api.Errno {
 }
 
 func checkDrafts(l []api.Draft) api.Errno {
-	if len(l) > api.MaxDrafts {
-		return api.ErrLarge
-	}
-	for i, d := range l {
-		if !syntax.Key(d.Id) {
-			return api.ErrName
-		}
-		if slices.ContainsFunc(l[:i], func(o api.Draft) bool { return o.Id == d.Id }) {
-			return api.ErrTwice
-		}
-		if e := checkRunText(d.Text); e != api.OK {
-			return e
-		}
-	}
-	return api.OK
+	id := func(d api.Draft) string { return d.Id }
+	return syntax.DistinctBy(l, api.MaxDrafts, id, func(d api.Draft) api.Errno { return checkRunText(d.Text) })
 }
 
 // numberer is a function that writes the words of texts as numbers, equal words as equal ones, for these are faster to compare.

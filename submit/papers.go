@@ -14,7 +14,7 @@ func CheckPaper(p api.Paper) api.Errno {
 	if len(p.Title) > api.MaxTitle {
 		return api.ErrLarge
 	}
-	if p.Title == "" || !syntax.Plain(p.Title) {
+	if !syntax.Label(p.Title, api.MaxTitle) {
 		return api.ErrForm
 	}
 	if e := checkAuthors(p.Authors); e != api.OK {

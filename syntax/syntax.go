@@ -43,11 +43,7 @@ func After(key, last string) api.Errno {
 }
 
 // Rising is what is wrong with a list of at most so many keys, each one greater than the one before.
-func Rising(keys []string, most int) api.Errno {
-	itself := func(key string) string { return key }
-	right := func(string) api.Errno { return api.OK }
-	return RisingBy(keys, most, itself, right)
-}
+func Rising(keys []string, most int) api.Errno { return RisingBy(keys, most, itself, noError) }
 
 // RisingBy is what is wrong with a list of at most so many elements: of each one first with its key, which is greater than the one before, then what check finds.
 func RisingBy[T any](l []T, most int, key func(T) string, check func(T) api.Errno) api.Errno {
@@ -68,17 +64,25 @@ func RisingBy[T any](l []T, most int, key func(T) string, check func(T) api.Errn
 }
 
 // Distinct is what is wrong with a list of at most so many keys, each one for the first time.
-func Distinct(keys []string, most int) api.Errno {
-	if len(keys) > most {
+func Distinct(keys []string, most int) api.Errno { return DistinctBy(keys, most, itself, noError) }
+
+// DistinctBy is what is wrong with a list of at most so many elements: of each one first with its key, which no earlier one has, then what check finds.
+func DistinctBy[T any](l []T, most int, key func(T) string, check func(T) api.Errno) api.Errno {
+	if len(l) > most {
 		return api.ErrLarge
 	}
-	for i, key := range keys {
-		if !Key(key) {
+	there := map[string]bool{}
+	for _, x := range l {
+		if !Key(key(x)) {
 			return api.ErrName
 		}
-		if slices.Contains(keys[:i], key) {
+		if there[key(x)] {
 			return api.ErrTwice
 		}
+		if e := check(x); e != api.OK {
+			return e
+		}
+		there[key(x)] = true
 	}
 	return api.OK
 }
@@ -104,6 +108,9 @@ func Plain(s string) bool {
 	blankAtEnd := strings.HasPrefix(s, " ") || strings.HasSuffix(s, " ")
 	return utf8.ValidString(s) && !blankAtEnd && !strings.Contains(s, "  ")
 }
+
+// Label reports whether a string is plain, not empty, and has at most so many bytes.
+func Label(s string, most int) bool { return s != "" && len(s) <= most && Plain(s) }
 
 // Text reports whether a string is a text.
 func Text(s string) bool {
@@ -178,6 +185,22 @@ func Read(text string, accept func(string) bool) (int, api.Errno) {
 	}
 	return 0, api.OK
 }
+
+// Write is the string of what each element is written as. ErrLarge if it has more than MaxText bytes; the elements from there on are not looked at.
+func Write[T any](l []T, written func(T) string) (string, api.Errno) {
+	var b strings.Builder
+	for _, x := range l {
+		b.WriteString(written(x))
+		if b.Len() > api.MaxText {
+			return "", api.ErrLarge
+		}
+	}
+	return b.String(), api.OK
+}
+
+func itself(key string) string { return key }
+
+func noError(string) api.Errno { return api.OK }
 
 func small(c byte) bool { return c >= 'a' && c <= 'z' }
 

@@ -52,6 +52,20 @@ func TestPlain(t *testing.T) {
 	}
 }
 
+// Z11: plain strings that are not empty, nor too long.
+func TestLabel(t *testing.T) {
+	for _, s := range []string{"a", "a b", "\u20ac", "abc"} {
+		if !Label(s, 3) {
+			t.Errorf("%q is right", s)
+		}
+	}
+	for _, s := range []string{"", " ", "a ", "abcd", "\u20aca", "a\n", "\xff"} {
+		if Label(s, 3) {
+			t.Errorf("%q is not right", s)
+		}
+	}
+}
+
 // Z11: texts.
 func TestText(t *testing.T) {
 	for _, s := range []string{"", "\n", "a\n", " a  b \n\nc\n", "\n\n", "Ä\u20ac\U0010ffff\u0080\n", "~\n", "\ufffd\n"} {
@@ -123,15 +137,41 @@ func TestRising(t *testing.T) {
 	}
 }
 
+// unmarked is a word without the mark that says that it is wrong.
+func unmarked(s string) string { return strings.TrimSuffix(s, "!") }
+
+func checkMark(s string) api.Errno {
+	if strings.HasSuffix(s, "!") {
+		return api.ErrSum
+	}
+	return api.OK
+}
+
+// Z4: elements whose keys differ, each one with what is wrong with it.
+func TestDistinctBy(t *testing.T) {
+	for _, c := range []struct {
+		words string
+		want  api.Errno
+	}{
+		{"", api.OK},
+		{"b a0 a", api.OK},
+		{"a! a a c", api.ErrLarge},
+		{"a b! a", api.ErrSum},
+		{"A!", api.ErrName},
+		{"a A! b!", api.ErrName},
+		{"b a! a", api.ErrSum},
+		{"b b! A", api.ErrTwice},
+		{"b c b", api.ErrTwice},
+		{"c b a!", api.ErrSum},
+	} {
+		if e := DistinctBy(strings.Fields(c.words), 3, unmarked, checkMark); e != c.want {
+			t.Errorf("%q: %d", c.words, e)
+		}
+	}
+}
+
 // Z4: elements in the order of their keys, each one with what is wrong with it.
 func TestRisingBy(t *testing.T) {
-	key := func(s string) string { return strings.TrimSuffix(s, "!") }
-	check := func(s string) api.Errno {
-		if strings.HasSuffix(s, "!") {
-			return api.ErrSum
-		}
-		return api.OK
-	}
 	for _, c := range []struct {
 		words string
 		want  api.Errno
@@ -147,7 +187,7 @@ func TestRisingBy(t *testing.T) {
 		{"b c a", api.ErrOrder},
 		{"a b c!", api.ErrSum},
 	} {
-		if e := RisingBy(strings.Fields(c.words), 3, key, check); e != c.want {
+		if e := RisingBy(strings.Fields(c.words), 3, unmarked, checkMark); e != c.want {
 			t.Errorf("%q: %d", c.words, e)
 		}
 	}
@@ -266,5 +306,33 @@ func TestRead(t *testing.T) {
 	}
 	if n, e := Read(strings.Repeat("x", api.MaxText+1), count); n != 0 || e != api.ErrLarge || lines != api.MaxText {
 		t.Error(n, e, lines)
+	}
+}
+
+// Z9: strings that are written element by element.
+func TestWrite(t *testing.T) {
+	asked := 0
+	written := func(n int) string {
+		asked++
+		return strings.Repeat("x", n) + "\n"
+	}
+	most := strings.Repeat("x", api.MaxText-1) + "\n"
+	for _, c := range []struct {
+		lengths []int
+		want    string
+		e       api.Errno
+		asked   int
+	}{
+		{nil, "", api.OK, 0},
+		{[]int{2, 0, 1}, "xx\n\nx\n", api.OK, 3},
+		{[]int{api.MaxText - 1}, most, api.OK, 1},
+		{[]int{0, api.MaxText - 2}, "\n" + most[1:], api.OK, 2},
+		{[]int{api.MaxText}, "", api.ErrLarge, 1},
+		{[]int{api.MaxText - 1, 0, 0}, "", api.ErrLarge, 2},
+	} {
+		asked = 0
+		if s, e := Write(c.lengths, written); s != c.want || e != c.e || asked != c.asked {
+			t.Errorf("%d: %d bytes, %d, %d", c.lengths, len(s), e, asked)
+		}
 	}
 }
