@@ -12,15 +12,9 @@ import (
 
 // CheckReplies validates replies.
 func CheckReplies(l []api.Reply) api.Errno {
-	if len(l) > api.MaxReplies {
-		return api.ErrLarge
-	}
-	for _, r := range l {
-		if e := cmp.Or(syntax.CheckKey(r.Paper), syntax.CheckMoment(r.At), checkWords(r.Words, api.MaxReply)); e != api.OK {
-			return e
-		}
-	}
-	return api.OK
+	return syntax.Each(l, api.MaxReplies, func(r api.Reply) api.Errno {
+		return cmp.Or(syntax.CheckKey(r.Paper), syntax.CheckMoment(r.At), checkWords(r.Words, api.MaxReply))
+	})
 }
 
 // Counted are the replies that count.

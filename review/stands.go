@@ -156,15 +156,12 @@ func Wrong(s api.Setup, l []api.Review) ([]int, api.Errno) {
 
 // checkDays validates for how many days before Due pairs are to be reminded.
 func checkDays(l []int) api.Errno {
-	if len(l) > api.MaxNudges {
-		return api.ErrLarge
-	}
-	for _, day := range l {
+	return syntax.Each(l, api.MaxNudges, func(day int) api.Errno {
 		if day < -api.MaxDay || day > api.MaxDay {
 			return api.ErrArg
 		}
-	}
-	return api.OK
+		return api.OK
+	})
 }
 
 func (b *book) stands(at int) []api.Stand {

@@ -61,15 +61,7 @@ func checkArrivals(c api.Call, l []api.Arrival) api.Errno {
 	if e := CheckCall(c); e != api.OK {
 		return e
 	}
-	if len(l) > api.MaxArrivals {
-		return api.ErrLarge
-	}
-	for _, a := range l {
-		if e := CheckArrival(a); e != api.OK {
-			return e
-		}
-	}
-	return api.OK
+	return syntax.Each(l, api.MaxArrivals, CheckArrival)
 }
 
 // histories are the arrivals that count by themselves, of each paper in their order.

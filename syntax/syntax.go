@@ -47,20 +47,14 @@ func Rising(keys []string, most int) api.Errno { return RisingBy(keys, most, its
 
 // RisingBy is what is wrong with a list of at most so many elements: of each one first with its key, which is greater than the one before, then what check finds.
 func RisingBy[T any](l []T, most int, key func(T) string, check func(T) api.Errno) api.Errno {
-	if len(l) > most {
-		return api.ErrLarge
-	}
 	last := ""
-	for _, x := range l {
+	return Each(l, most, func(x T) api.Errno {
 		if e := After(key(x), last); e != api.OK {
 			return e
 		}
-		if e := check(x); e != api.OK {
-			return e
-		}
 		last = key(x)
-	}
-	return api.OK
+		return check(x)
+	})
 }
 
 // Distinct is what is wrong with a list of at most so many keys, each one for the first time.
@@ -68,21 +62,28 @@ func Distinct(keys []string, most int) api.Errno { return DistinctBy(keys, most,
 
 // DistinctBy is what is wrong with a list of at most so many elements: of each one first with its key, which no earlier one has, then what check finds.
 func DistinctBy[T any](l []T, most int, key func(T) string, check func(T) api.Errno) api.Errno {
-	if len(l) > most {
-		return api.ErrLarge
-	}
 	there := map[string]bool{}
-	for _, x := range l {
+	return Each(l, most, func(x T) api.Errno {
 		if !Key(key(x)) {
 			return api.ErrName
 		}
 		if there[key(x)] {
 			return api.ErrTwice
 		}
+		there[key(x)] = true
+		return check(x)
+	})
+}
+
+// Each is what is wrong with a list of at most so many elements: of each one what check finds.
+func Each[T any](l []T, most int, check func(T) api.Errno) api.Errno {
+	if len(l) > most {
+		return api.ErrLarge
+	}
+	for _, x := range l {
 		if e := check(x); e != api.OK {
 			return e
 		}
-		there[key(x)] = true
 	}
 	return api.OK
 }

@@ -147,6 +147,22 @@ func checkMark(s string) api.Errno {
 	return api.OK
 }
 
+// Z4: elements, each one with what is wrong with it.
+func TestEach(t *testing.T) {
+	for words, want := range map[string]api.Errno{
+		"":         api.OK,
+		"b a A":    api.OK,
+		"a! b c":   api.ErrSum,
+		"a b c!":   api.ErrSum,
+		"a a a a":  api.ErrLarge,
+		"a! b c d": api.ErrLarge,
+	} {
+		if e := Each(strings.Fields(words), 3, checkMark); e != want {
+			t.Errorf("%q: %d", words, e)
+		}
+	}
+}
+
 // Z4: elements whose keys differ, each one with what is wrong with it.
 func TestDistinctBy(t *testing.T) {
 	for _, c := range []struct {
